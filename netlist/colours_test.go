@@ -123,6 +123,7 @@ func TestColours(t *testing.T) {
 		{"pins of no group", "a:gate b:gate | m a.v | n b.w", []int{1, 0}, []int{0, 1}},
 		{"pins of one group in several ways", "a:gate b:gate | m a.a b.b | n a.b | o b.a", []int{0, 0}, []int{1, 0, 0}},
 		{"all pins of a group in one net", "a:r b:r | m a.1 a.2 | n b.1 | o b.2", []int{1, 0}, []int{1, 0, 0}},
+		{"pins of two groups", "a:two b:two c:two d:two e:two | m a.b | n b.c | o c.d | p d.e | q e.f", []int{2, 1, 0, 2, 0}, []int{0, 1, 2, 0, 2}},
 		{"a chain", "a:r b:r c:r d:r e:r | w a.2 b.1 | x b.2 c.1 | y c.2 d.1 | z d.2 e.1", []int{0, 1, 2, 1, 0}, []int{0, 1, 1, 0}},
 		{"a ring", "a:r b:r c:r | x a.2 b.1 | y b.2 c.1 | z a.1 c.2", []int{0, 0, 0}, []int{0, 0, 0}},
 	} {
@@ -140,11 +141,11 @@ func TestColours(t *testing.T) {
 // manyAlike makes lists in which much looks alike: few types, many pins in nets of two.
 func manyAlike(rnd *rand.Rand) api.Netlist {
 	many := 1 + rnd.IntN(14)
-	x := api.Netlist{Parts: partsOf([]string{"r", "gate", "nc"}[rnd.IntN(3)], names("P", many))}
+	x := api.Netlist{Parts: partsOf([]string{"r", "gate", "nc", "two"}[rnd.IntN(4)], names("P", many))}
 	kind := someTypes()[slices.IndexFunc(someTypes(), func(k api.PartType) bool { return k.Name == x.Parts[0].Type })]
 	var free []api.Pin
 	for _, p := range x.Parts {
-		for _, one := range kind.Pins[:min(2, len(kind.Pins))] {
+		for _, one := range kind.Pins[:min(2+rnd.IntN(6), len(kind.Pins))] {
 			free = append(free, api.Pin{Part: p.Name, Pin: one.Name})
 		}
 	}

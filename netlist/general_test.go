@@ -162,6 +162,33 @@ func TestArgumentsAndResults(t *testing.T) {
 	}
 }
 
+// Q3: results are zero beside a fault.
+func TestResultsBesideFaults(t *testing.T) {
+	for _, c := range callsOfAll() {
+		args := slices.Clone(c.args)
+		switch c.name {
+		case "Text":
+			args[0] = list("a:.")
+		case "Read":
+			args[0] = "part a r\n\n"
+		default:
+			args[0] = []api.PartType{{}}
+		}
+		results := c.called(args)
+		last := len(results) - 1
+		if results[last] == api.OK {
+			t.Errorf("%s: no fault", c.name)
+		}
+		for i, r := range results[:last] {
+			if c.name == "Read" && i == 1 {
+				want(t, c.name, r, 2)
+				continue
+			}
+			wantZero(t, c.name, r)
+		}
+	}
+}
+
 // Q1: there is a result for the strangest arguments.
 func TestStrangeArguments(t *testing.T) {
 	const low, high = math.MinInt, math.MaxInt

@@ -18,6 +18,7 @@ func someTypes() []api.PartType {
 		{Name: "gate", Pins: pinTypes("a:1:1 b:1:1 v:4 w:5 y:2")},
 		{Name: "nc", Pins: pinTypes("f:7:2 g:7:2 h:6")},
 		{Name: "r", Pins: pinTypes("1:6:1 2:6:1")},
+		{Name: "two", Pins: pinTypes("a:6 b:6:200 c:6 d:6:3 e:6:200 f:6:3 g:6")},
 	}
 }
 
