@@ -57,15 +57,23 @@ func flat(p api.Plot) api.Plot {
 	return out
 }
 
+// checked returns a plot that was made of others. They were right, but what is moved, or put together, can be more than a plot may have.
+func checked(p api.Plot) (api.Plot, api.Fault) {
+	if f := CheckPlot(p); f != api.OK {
+		return api.Plot{}, f
+	}
+	return p, api.OK
+}
+
 // Flat returns a plot without repeats: they are written out.
 func Flat(p api.Plot) (api.Plot, api.Fault) {
 	if f := CheckPlot(p); f != api.OK {
 		return api.Plot{}, f
 	}
-	return flat(p), api.OK
+	return checked(flat(p))
 }
 
-// scaled returns a plot that is right with another unit; false if some number would be no whole one.
+// scaled returns a plot that is right with another unit; false if some number would be no whole one. What it returns is right, too: all lengths are the same in micrometres, and nothing else changes.
 func scaled(p api.Plot, unit int) (api.Plot, bool) {
 	whole := true
 	number := func(n int) int {
@@ -116,7 +124,7 @@ func Moved(p api.Plot, by api.Point) (api.Plot, api.Fault) {
 	if f != api.OK {
 		return api.Plot{}, f
 	}
-	return moving(far).plot(p), api.OK
+	return checked(moving(far).plot(p))
 }
 
 // TurnedPlot returns a plot whose image is turned.
@@ -138,11 +146,7 @@ func TurnedPlot(p api.Plot, t api.Turn) (api.Plot, api.Fault) {
 		return hull(api.Rect{X0: a.X, Y0: a.Y, X1: a.X, Y1: a.Y}, api.Rect{X0: b.X, Y0: b.Y, X1: b.X, Y1: b.Y})
 	}
 	c.place = func(p api.Point) api.Point { return sum(around(p), at) }
-	out := c.plot(flat(p))
-	if f := CheckPlot(out); f != api.OK {
-		return api.Plot{}, f
-	}
-	return out, api.OK
+	return checked(c.plot(flat(p)))
 }
 
 // turning returns what turns points around the point 0, 0. It asks only where a step along each axis comes: for repeats can lead far beyond the points that can be turned.
@@ -165,10 +169,7 @@ func Joined(a, b api.Plot) (api.Plot, api.Fault) {
 	out := api.Plot{Unit: unit, Tools: append(first.Tools, second.Tools...)}
 	out.Steps = append(first.Steps, api.PlotStep{Kind: api.StepDark})
 	out.Steps = append(out.Steps, second.Steps...)
-	if f := CheckPlot(out); f != api.OK {
-		return api.Plot{}, f
-	}
-	return out, api.OK
+	return checked(out)
 }
 
 func commonDivisor(a, b int) int {

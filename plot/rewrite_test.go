@@ -24,14 +24,44 @@ func TestFlat(t *testing.T) {
 		wantFault(t, c.what, f, api.OK)
 		want(t, c.what, p, plotOf(t, tools+c.want))
 	}
-	far := onlySteps(repeat(100, 1, api.MaxAt, 0, move(0, 0)))
-	p, f := Flat(far)
-	wantFault(t, "far", f, api.OK)
-	want(t, "far", p.Steps[99].At, point(99*api.MaxAt, 0))
 	most := onlySteps(manySteps(api.MaxSteps)...)
-	p, f = Flat(most)
+	p, f := Flat(most)
 	wantFault(t, "as many as can be", f, api.OK)
 	want(t, "as many as can be", len(p.Steps), api.MaxSteps-1)
+}
+
+// P4: repeats written out up to MaxAt, and past it.
+func TestRangeOfFlat(t *testing.T) {
+	for _, c := range []struct {
+		what, plot, want string // nothing is wanted if it is ErrRange
+	}{
+		{"a move up to the bound", "unit 2; repeat 3 1 5 0; move 499990 0; done", "unit 2; move 499990 0; move 499995 0; move 500000 0"},
+		{"a move past it", "unit 2; repeat 3 1 5 0; move 499991 0; done", ""},
+		{"a move down to the bound", "unit 2; repeat 3 1 -5 0; move -499990 0; done", "unit 2; move -499990 0; move -499995 0; move -500000 0"},
+		{"a move past the lower one", "unit 2; repeat 3 1 -5 0; move -499991 0; done", ""},
+		{"a move up to the bound of Y", "unit 2; repeat 1 2 0 5; move 0 499995; done", "unit 2; move 0 499995; move 0 500000"},
+		{"a move past it", "unit 2; repeat 1 2 0 5; move 0 499996; done", ""},
+		{"a flash up to the bound", "unit 1; repeat 1 2 0 7; flash 0 999993; done", "unit 1; flash 0 999993; flash 0 1000000"},
+		{"a flash past it", "unit 1; repeat 1 2 0 7; flash 0 999994; done", ""},
+		{"a line down to the bound", "unit 1; repeat 1 2 0 -7; line 0 -999993; done", "unit 1; line 0 -999993; line 0 -1000000"},
+		{"a line past it", "unit 1; repeat 1 2 0 -7; line 0 -999994; done", ""},
+		{"an area up to the bound", "unit 1; repeat 3 1 5 2; area 5 5 9 5 9 1000000 5 1000000; done", "unit 1; area 5 5 9 5 9 1000000 5 1000000; area 10 5 14 5 14 1000000 10 1000000; area 15 5 19 5 19 1000000 15 1000000"},
+		{"an area past it", "unit 1; repeat 3 2 5 2; area 5 5 9 5 9 1000000 5 1000000; done", ""},
+		{"a point of an area past it", "unit 1; repeat 2 1 1 0; area 0 0 1000000 0 1000000 1 0 1; done", ""},
+		{"repeats that lead to the bound together", "unit 1; repeat 2 1 600000 0; repeat 2 1 400000 0; move 0 0; done; done", "unit 1; move 0 0; move 400000 0; move 600000 0; move 1000000 0"},
+		{"repeats that lead past it together", "unit 1; repeat 2 1 600000 0; repeat 2 1 400001 0; move 0 0; done; done", ""},
+		{"a repeat that comes back", "unit 1; repeat 2 1 -1000000 0; repeat 2 1 1000000 0; move 0 0; done; done", "unit 1; move 0 0; move 1000000 0; move -1000000 0; move 0 0"},
+		{"a repeat that goes far without a place", "unit 1; repeat 100 1 1000000 0; dark; done; move 0 0", "unit 1; " + strings.Repeat("dark; ", 100) + "move 0 0"},
+	} {
+		p, f := Flat(plotOf(t, c.plot))
+		if c.want == "" {
+			wantFault(t, c.what, f, api.ErrRange)
+			wantZero(t, c.what, p)
+			continue
+		}
+		wantFault(t, c.what, f, api.OK)
+		want(t, c.what, textOf(p), c.want)
+	}
 }
 
 // P4: other units.
@@ -73,6 +103,13 @@ func TestScaled(t *testing.T) {
 		wantZero(t, "unit", p)
 		want(t, "unit", ok, false)
 	}
+	atBounds := plotOf(t, "unit 10; tool t -100000 -100000 100000 100000; flash -100000 100000; area -100000 -100000 100000 -100000 100000 100000 -100000 100000; repeat 1 1 100000 -100000; line 100000 0; done")
+	for _, unit := range []int{1, 2, 5, 10, 100, 1000} {
+		p, ok, f := Scaled(atBounds, unit)
+		wantFault(t, "at the bounds", f, api.OK)
+		want(t, "at the bounds", ok, true)
+		wantFault(t, "CheckPlot at the bounds", CheckPlot(p), api.OK)
+	}
 	_, ok, f := Scaled(plotOf(t, "unit 1000; move 1000 0"), api.MaxUnit)
 	wantFault(t, "the greatest unit", f, api.OK)
 	want(t, "the greatest unit", ok, true)
@@ -91,7 +128,6 @@ func TestMoved(t *testing.T) {
 		want api.Fault
 	}{
 		{"not at all", point(0, 0), api.OK},
-		{"as far as can be", point(api.MaxAt, -api.MaxAt), api.OK},
 		{"X is no multiple", point(5, 10), api.ErrForm},
 		{"Y is no multiple", point(-10, -1), api.ErrForm},
 		{"X is too far, and no multiple", point(api.MaxAt+1, 0), api.ErrRange},
@@ -107,9 +143,119 @@ func TestMoved(t *testing.T) {
 			wantZero(t, c.what, p)
 		}
 	}
-	p, f = Moved(onlySteps(flash(1, 0)), point(api.MaxAt, 0))
-	wantFault(t, "out of range", f, api.OK)
-	want(t, "out of range", p.Steps[0].At, point(api.MaxAt+1, 0))
+}
+
+// P4: plots that are moved up to MaxAt, and past it.
+func TestRangeOfMoved(t *testing.T) {
+	for _, c := range []struct {
+		what, plot string
+		by         api.Point
+		want       string // nothing is wanted if it is ErrRange
+	}{
+		{"as far as can be", "unit 10; move 0 0", point(api.MaxAt, -api.MaxAt), "unit 10; move 100000 -100000"},
+		{"a move to the bound", "unit 2; move 2 9", point(-1000000, 999982), "unit 2; move -499998 500000"},
+		{"a move past it", "unit 2; move 2 9", point(-1000000, 999984), ""},
+		{"a move far past it", "unit 2; move 2 9", point(-1000000, 1000000), ""},
+		{"a move to the lower bound", "unit 2; move -2 9", point(-999996, 0), "unit 2; move -500000 9"},
+		{"a move past the lower bound", "unit 2; move -2 9", point(-999998, 0), ""},
+		{"a flash to the bound", "unit 1; flash 1 0", point(999999, 0), "unit 1; flash 1000000 0"},
+		{"a flash past it", "unit 1; flash 1 0", point(1000000, 0), ""},
+		{"a line to the lower bound", "unit 1; line 0 -1", point(0, -999999), "unit 1; line 0 -1000000"},
+		{"a line past it", "unit 1; line 0 -1", point(0, -1000000), ""},
+		{"an area to the bound", "unit 1; repeat 1 1 0 0; area 0 0 4 0 4 3 0 3; done", point(999996, 0), "unit 1; repeat 1 1 0 0; area 999996 0 1000000 0 1000000 3 999996 3; done"},
+		{"an area past it", "unit 1; repeat 1 1 0 0; area 0 0 4 0 4 3 0 3; done", point(999997, 0), ""},
+		{"only the first time of a repeat has bounds", "unit 1; repeat 2 1 9 0; move 0 0; done", point(1000000, 0), "unit 1; repeat 2 1 9 0; move 1000000 0; done"},
+		{"distances and tools stay", "unit 1; tool t 999999 0 1000000 1; repeat 1 1 1000000 0; dark; done", point(1000000, 0), "unit 1; tool t 999999 0 1000000 1; repeat 1 1 1000000 0; dark; done"},
+	} {
+		p, f := Moved(plotOf(t, c.plot), c.by)
+		if c.want == "" {
+			wantFault(t, c.what, f, api.ErrRange)
+			wantZero(t, c.what, p)
+			continue
+		}
+		wantFault(t, c.what, f, api.OK)
+		want(t, c.what, textOf(p), c.want)
+	}
+	p, f := Moved(plotOf(t, "unit 10; move 100000 0"), point(5, 0))
+	wantFault(t, "no multiple, and out of range", f, api.ErrForm)
+	wantZero(t, "no multiple, and out of range", p)
+}
+
+// shifted moves all places and points, also those within repeats.
+func shifted(l []api.PlotStep, by api.Point) []api.PlotStep {
+	out := clonedSteps(l)
+	for i := range out {
+		s := &out[i]
+		switch s.Kind {
+		case api.StepMove, api.StepFlash, api.StepLine:
+			s.At = point(s.At.X+by.X, s.At.Y+by.Y)
+		}
+		for k, p := range s.Points {
+			s.Points[k] = point(p.X+by.X, p.Y+by.Y)
+		}
+		s.Steps = shifted(s.Steps, by)
+	}
+	return out
+}
+
+// writtenOut does repeats, one time after the other.
+func writtenOut(l []api.PlotStep) []api.PlotStep {
+	var out []api.PlotStep
+	for _, s := range l {
+		if s.Kind != api.StepRepeat {
+			out = append(out, s)
+			continue
+		}
+		for j := range s.NY {
+			for i := range s.NX {
+				out = append(out, shifted(writtenOut(s.Steps), point(i*s.At.X, j*s.At.Y))...)
+			}
+		}
+	}
+	return out
+}
+
+// P4: what is written otherwise is the plot that it should be, or ErrRange if CheckPlot says this of it.
+func TestRandomRanges(t *testing.T) {
+	wanted := map[string]int{}
+	hold := func(what string, p api.Plot, f api.Fault, unit int, tools []api.PlotTool, steps []api.PlotStep) {
+		t.Helper()
+		model := api.Plot{Unit: unit, Tools: tools, Steps: steps}
+		expected := CheckPlot(model)
+		wantFault(t, what, f, expected)
+		if expected != api.OK {
+			want(t, what, expected, api.ErrRange)
+			model = api.Plot{}
+		}
+		want(t, what, p, model)
+		wanted[what+map[bool]string{false: " out of range", true: ""}[expected == api.OK]]++
+	}
+	tried(t, 5000, func(rnd *rand.Rand) {
+		p := randomPlot(rnd)
+		far := func() int { return (rnd.IntN(3) - 1) * (api.MaxAt/p.Unit - rnd.IntN(12)) }
+		p.Steps = shifted(p.Steps, point(far(), far()))
+		if CheckPlot(p) != api.OK {
+			return
+		}
+		q, f := Flat(p)
+		hold("Flat", q, f, p.Unit, p.Tools, writtenOut(p.Steps))
+		by := point(rnd.IntN(9)-4, rnd.IntN(9)-4)
+		micrometres := point(by.X*p.Unit, by.Y*p.Unit)
+		q, f = Moved(p, micrometres)
+		hold("Moved", q, f, p.Unit, p.Tools, shifted(p.Steps, by))
+		q, f = TurnedPlot(p, api.Turn{At: micrometres})
+		hold("TurnedPlot", q, f, p.Unit, p.Tools, shifted(writtenOut(p.Steps), by))
+		for unit := 1; unit < 5; unit++ {
+			if q, ok, _ := Scaled(p, unit); ok {
+				wantFault(t, "CheckPlot of Scaled", CheckPlot(q), api.OK)
+			}
+		}
+	})
+	for _, what := range []string{"Flat", "Moved", "TurnedPlot"} {
+		if wanted[what] < 1000 || wanted[what+" out of range"] < 100 {
+			t.Errorf("%s: %v", what, wanted)
+		}
+	}
 }
 
 // P4: turned plots.
