@@ -2,44 +2,9 @@
 package netlist
 
 import (
-	"strings"
-
 	"etchhouse/api"
+	"etchhouse/texts"
 )
-
-// isWord says whether a text can be a name of a part, a pin, a net, a port or a sheet.
-func isWord(s string) bool {
-	if len(s) < 1 || len(s) > api.MaxName {
-		return false
-	}
-	for i := range len(s) {
-		if !isWordByte(s[i]) {
-			return false
-		}
-	}
-	return true
-}
-
-func isWordByte(b byte) bool {
-	switch {
-	case 'A' <= b && b <= 'Z', 'a' <= b && b <= 'z', '0' <= b && b <= '9':
-		return true
-	}
-	return b == '_' || b == '+' || b == '-' || b == '#'
-}
-
-// isPath says whether a text is words with / between.
-func isPath(s string) bool {
-	if len(s) > api.MaxPath {
-		return false
-	}
-	for _, word := range strings.Split(s, "/") {
-		if !isWord(word) {
-			return false
-		}
-	}
-	return true
-}
 
 // CheckTypes validates types of parts.
 func CheckTypes(t []api.PartType) api.Fault {
@@ -59,7 +24,7 @@ func CheckTypes(t []api.PartType) api.Fault {
 
 func checkType(one api.PartType) api.Fault {
 	switch {
-	case !isWord(one.Name):
+	case !texts.IsWord(one.Name):
 		return api.ErrName
 	case len(one.Pins) == 0:
 		return api.ErrNone
@@ -79,7 +44,7 @@ func checkType(one api.PartType) api.Fault {
 
 func checkPinType(p api.PinType) api.Fault {
 	switch {
-	case !isWord(p.Name):
+	case !texts.IsWord(p.Name):
 		return api.ErrName
 	case p.Kind < api.PinIn || p.Kind > api.PinFree:
 		return api.ErrKind

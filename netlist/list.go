@@ -4,6 +4,7 @@ import (
 	"slices"
 
 	"etchhouse/api"
+	"etchhouse/texts"
 )
 
 // none stands for the net of a loose pin.
@@ -27,7 +28,7 @@ func wire(t []api.PartType, x api.Netlist) (wiring, api.Fault) {
 		return wiring{}, f
 	}
 	kinds := numbered(t, typeName)
-	if f := checkParts(x.Parts, kinds, isPath); f != api.OK {
+	if f := checkParts(x.Parts, kinds, texts.IsPath); f != api.OK {
 		return wiring{}, f
 	}
 	if len(x.Nets) > api.MaxNets {
@@ -66,7 +67,7 @@ func wireBoth(t []api.PartType, a, b api.Netlist) (wiring, wiring, api.Fault) {
 // take validates the next net but for its order, and notes its pins.
 func (w *wiring) take(n api.Net) api.Fault {
 	switch {
-	case !isPath(n.Name):
+	case !texts.IsPath(n.Name):
 		return api.ErrName
 	case len(n.Pins) == 0:
 		return api.ErrNone

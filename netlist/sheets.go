@@ -4,6 +4,7 @@ import (
 	"strings"
 
 	"etchhouse/api"
+	"etchhouse/texts"
 )
 
 // book is types and sheets, found by their names. The sheets need not be right yet.
@@ -60,13 +61,13 @@ func CheckSheets(t []api.PartType, l []api.Sheet) api.Fault {
 
 func (b book) checkSheet(i int) api.Fault {
 	s := b.sheets[i]
-	if !isWord(s.Name) {
+	if !texts.IsWord(s.Name) {
 		return api.ErrName
 	}
 	if f := checkPorts(s.Ports); f != api.OK {
 		return f
 	}
-	if f := checkParts(s.Parts, b.kinds, isWord); f != api.OK {
+	if f := checkParts(s.Parts, b.kinds, texts.IsWord); f != api.OK {
 		return f
 	}
 	if f := b.checkUses(s); f != api.OK {
@@ -80,7 +81,7 @@ func checkPorts(ports []string) api.Fault {
 		return api.ErrLarge
 	}
 	for i, p := range ports {
-		if !isWord(p) {
+		if !texts.IsWord(p) {
 			return api.ErrName
 		}
 		if i > 0 && p <= ports[i-1] {
@@ -96,7 +97,7 @@ func (b book) checkUses(s api.Sheet) api.Fault {
 	}
 	parts := numbered(s.Parts, partName)
 	for i, u := range s.Uses {
-		if !isWord(u.Name) {
+		if !texts.IsWord(u.Name) {
 			return api.ErrName
 		}
 		if _, ok := parts[u.Name]; ok {
@@ -121,7 +122,7 @@ func (b book) checkNets(s api.Sheet, ports map[string]int) api.Fault {
 	hasPort := func(port string) bool { _, ok := ports[port]; return ok }
 	pinTaken, portTaken := once[api.Pin](), once[string]()
 	for i, n := range s.Nets {
-		if !isWord(n.Name) {
+		if !texts.IsWord(n.Name) {
 			return api.ErrName
 		}
 		if len(n.Pins) > api.MaxNetPins {

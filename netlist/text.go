@@ -4,16 +4,12 @@ import (
 	"strings"
 
 	"etchhouse/api"
+	"etchhouse/texts"
 )
 
 // isPlain says whether a text can stand as a name in the text of a list.
 func isPlain(s string) bool {
-	for i := range len(s) {
-		if s[i] < 33 || s[i] > 126 || s[i] == '.' {
-			return false
-		}
-	}
-	return s != ""
+	return texts.IsRow(s) && !strings.Contains(s, ".")
 }
 
 // Text writes a list.
@@ -70,12 +66,9 @@ func Read(text string) (api.Netlist, int, api.Fault) {
 		return api.Netlist{}, 0, api.ErrLarge
 	}
 	var x api.Netlist
-	for number := 1; text != ""; number++ {
-		line, rest, ends := strings.Cut(text, "\n")
-		if !ends || !readLine(&x, strings.Split(line, " ")) {
-			return api.Netlist{}, number, api.ErrSyntax
-		}
-		text = rest
+	line := texts.Lines(text, func(words []string) bool { return readLine(&x, words) })
+	if line > 0 {
+		return api.Netlist{}, line, api.ErrSyntax
 	}
 	return x, 0, api.OK
 }

@@ -5,6 +5,7 @@ import (
 	"strings"
 
 	"etchhouse/api"
+	"etchhouse/texts"
 )
 
 // Text writes a plot.
@@ -86,16 +87,11 @@ func Read(text string) (api.Plot, int, api.Fault) {
 		return api.Plot{}, 0, api.ErrLarge
 	}
 	var r reader
-	number := 1
-	for ; text != ""; number++ {
-		line, rest, ends := strings.Cut(text, "\n")
-		if !ends || !r.line(strings.Split(line, " ")) {
-			return api.Plot{}, number, api.ErrSyntax
-		}
-		text = rest
+	if line := texts.Lines(text, r.line); line > 0 {
+		return api.Plot{}, line, api.ErrSyntax
 	}
 	if !r.unit || len(r.open) > 0 {
-		return api.Plot{}, number, api.ErrSyntax
+		return api.Plot{}, strings.Count(text, "\n") + 1, api.ErrSyntax
 	}
 	if f := CheckPlot(r.plot); f != api.OK {
 		return api.Plot{}, 0, f
@@ -138,7 +134,7 @@ func (r *reader) readUnit(first string, words []string) bool {
 }
 
 func (r *reader) readTool(words []string) bool {
-	if len(r.plot.Steps) > 0 || len(r.open) > 0 || len(words) == 0 || !isWord(words[0]) {
+	if len(r.plot.Steps) > 0 || len(r.open) > 0 || len(words) == 0 || !texts.IsRow(words[0]) {
 		return false
 	}
 	numbers, ok := readNumbers(words[1:])
@@ -195,7 +191,7 @@ func readStep(first string, words []string) (api.PlotStep, bool) {
 		if len(words) != 1 {
 			return api.PlotStep{}, false
 		}
-		return api.PlotStep{Kind: api.StepUse, Name: words[0]}, isWord(words[0])
+		return api.PlotStep{Kind: api.StepUse, Name: words[0]}, texts.IsRow(words[0])
 	case "move":
 		return readPlace(api.StepMove, words)
 	case "flash":
@@ -232,33 +228,11 @@ func readPoints(words []string) ([]api.Point, bool) {
 func readNumbers(words []string) ([]int, bool) {
 	var numbers []int
 	for _, word := range words {
-		if !isNumber(word) {
+		n, ok := texts.Signed(word)
+		if !ok {
 			return nil, false
 		}
-		n, _ := strconv.Atoi(word)
 		numbers = append(numbers, n)
 	}
 	return numbers, true
-}
-
-func isNumber(word string) bool {
-	digits, negative := strings.CutPrefix(word, "-")
-	if len(digits) < 1 || len(digits) > 9 {
-		return false
-	}
-	for i := range len(digits) {
-		if !isDigit(digits[i]) {
-			return false
-		}
-	}
-	return digits[0] != '0' || digits == "0" && !negative
-}
-
-func isWord(word string) bool {
-	for i := range len(word) {
-		if word[i] < 33 || word[i] > 126 {
-			return false
-		}
-	}
-	return word != ""
 }
