@@ -49,9 +49,9 @@ func drilled(a api.Art) (*board, api.Fault) {
 // add drills the next copper, and numbers its pieces.
 func (b *board) add(copper []api.Rect) api.Fault {
 	layer := len(b.coppers)
-	left, f := minus(copper, b.squaresThrough(layer))
-	if f != api.OK {
-		return f
+	left := shape.InFirstAlone(copper, b.squaresThrough(layer))
+	if len(left) > api.MaxRects {
+		return api.ErrLarge
 	}
 	regions, f := shape.Pieces(left)
 	if f != api.OK {
@@ -80,51 +80,6 @@ func (b *board) squaresThrough(layer int) []api.Rect {
 
 func goesThrough(b api.Bore, layer int) bool {
 	return b.From <= layer && layer <= b.To
-}
-
-// minus returns a region without some squares. Squares beside one another at many heights can be too many rectangles for a region even where little copper is left: then what lies below and above a height is drilled by itself.
-func minus(region, squares []api.Rect) ([]api.Rect, api.Fault) {
-	holes, f := shape.Region(squares)
-	if f == api.OK {
-		return shape.Minus(region, holes)
-	}
-	height := middleHeight(squares)
-	low, f := minusWithin(region, squares, -api.MaxAt, height)
-	if f != api.OK {
-		return nil, f
-	}
-	high, f := minusWithin(region, squares, height, api.MaxAt)
-	if f != api.OK {
-		return nil, f
-	}
-	return shape.Union(low, high)
-}
-
-// minusWithin does so with what lies between two heights.
-func minusWithin(region, squares []api.Rect, low, high int) ([]api.Rect, api.Fault) {
-	within, f := shape.Both(region, []api.Rect{{X0: -api.MaxAt, Y0: low, X1: api.MaxAt, Y1: high}})
-	if f != api.OK {
-		return nil, f
-	}
-	var parts []api.Rect
-	for _, s := range squares {
-		s.Y0, s.Y1 = max(s.Y0, low), min(s.Y1, high)
-		if s.Y0 < s.Y1 {
-			parts = append(parts, s)
-		}
-	}
-	return minus(within, parts)
-}
-
-// middleHeight is the height in the middle of those at which squares begin or end.
-func middleHeight(squares []api.Rect) int {
-	var heights []int
-	for _, s := range squares {
-		heights = append(heights, s.Y0, s.Y1)
-	}
-	slices.Sort(heights)
-	heights = slices.Compact(heights)
-	return heights[len(heights)/2]
 }
 
 // Drilled returns the copper that is left of each layer.
@@ -184,7 +139,7 @@ func (b *board) touched(bore int) []int {
 	if !one.Plated {
 		return nil
 	}
-	touches := func(r api.Rect) bool { return haveSide(r, square) }
+	touches := func(r api.Rect) bool { return shape.Touch(r, square) }
 	var out []int
 	for k, p := range b.pieces {
 		if goesThrough(one, p.layer) && slices.ContainsFunc(p.region, touches) {
@@ -192,20 +147,4 @@ func (b *board) touched(bore int) []int {
 		}
 	}
 	return out
-}
-
-// overlap says whether two rectangles have a square in common.
-func overlap(r, s api.Rect) bool {
-	return common(r.X0, r.X1, s.X0, s.X1) > 0 && common(r.Y0, r.Y1, s.Y0, s.Y1) > 0
-}
-
-// haveSide says whether two rectangles without a common square have a side of squares in common.
-func haveSide(r, s api.Rect) bool {
-	x, y := common(r.X0, r.X1, s.X0, s.X1), common(r.Y0, r.Y1, s.Y0, s.Y1)
-	return x == 0 && y > 0 || x > 0 && y == 0
-}
-
-// common is how long what two stretches have in common is: 0 if they touch, less if they lie apart.
-func common(from, to, otherFrom, otherTo int) int {
-	return min(to, otherTo) - max(from, otherFrom)
 }

@@ -104,7 +104,7 @@ func comparePins(p, q api.Pin) int {
 func haveClash(bores []api.Bore, squares []api.Rect) bool {
 	for i, b := range bores {
 		for j, c := range bores[:i] {
-			if b.From <= c.To && c.From <= b.To && overlap(squares[i], squares[j]) {
+			if b.From <= c.To && c.From <= b.To && shape.Overlap(squares[i], squares[j]) {
 				return true
 			}
 		}

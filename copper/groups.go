@@ -4,6 +4,7 @@ import (
 	"slices"
 
 	"etchhouse/api"
+	"etchhouse/shape"
 )
 
 // links tells of each piece and each plated bore what it touches, in order.
@@ -53,7 +54,7 @@ func (b *board) hops() []api.Hop {
 // holder is the piece or the plated bore that has a land, and whether there is one.
 func (b *board) holder(l api.Land) (api.Hop, bool) {
 	square := api.Rect{X0: l.At.X, Y0: l.At.Y, X1: l.At.X + 1, Y1: l.At.Y + 1}
-	has := func(r api.Rect) bool { return overlap(r, square) }
+	has := func(r api.Rect) bool { return shape.Overlap(r, square) }
 	for i, one := range b.bores {
 		if one.Plated && goesThrough(one, l.Layer) && has(b.squares[i]) {
 			return api.Hop{Bore: true, Number: i}, true

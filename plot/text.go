@@ -125,7 +125,7 @@ func (r *reader) line(words []string) bool {
 }
 
 func (r *reader) readUnit(first string, words []string) bool {
-	numbers, ok := readNumbers(words)
+	numbers, ok := texts.Numbers(words)
 	if r.unit || first != "unit" || !ok || len(numbers) != 1 {
 		return false
 	}
@@ -137,7 +137,7 @@ func (r *reader) readTool(words []string) bool {
 	if len(r.plot.Steps) > 0 || len(r.open) > 0 || len(words) == 0 || !texts.IsRow(words[0]) {
 		return false
 	}
-	numbers, ok := readNumbers(words[1:])
+	numbers, ok := texts.Numbers(words[1:])
 	if !ok || len(numbers) == 0 || len(numbers)%4 != 0 {
 		return false
 	}
@@ -150,7 +150,7 @@ func (r *reader) readTool(words []string) bool {
 }
 
 func (r *reader) readRepeat(words []string) bool {
-	numbers, ok := readNumbers(words)
+	numbers, ok := texts.Numbers(words)
 	if !ok || len(numbers) != 4 {
 		return false
 	}
@@ -214,7 +214,7 @@ func readPlace(kind int, words []string) (api.PlotStep, bool) {
 }
 
 func readPoints(words []string) ([]api.Point, bool) {
-	numbers, ok := readNumbers(words)
+	numbers, ok := texts.Numbers(words)
 	if !ok || len(numbers)%2 != 0 {
 		return nil, false
 	}
@@ -223,16 +223,4 @@ func readPoints(words []string) ([]api.Point, bool) {
 		points = append(points, api.Point{X: numbers[0], Y: numbers[1]})
 	}
 	return points, true
-}
-
-func readNumbers(words []string) ([]int, bool) {
-	var numbers []int
-	for _, word := range words {
-		n, ok := texts.Signed(word)
-		if !ok {
-			return nil, false
-		}
-		numbers = append(numbers, n)
-	}
-	return numbers, true
 }

@@ -13,7 +13,7 @@ func Gaps(l [][]api.Rect, below int) ([]api.Gap, api.Fault) {
 			if len(a) == 0 || len(l[j]) == 0 {
 				continue
 			}
-			away := regionDistance(a, l[j])
+			away := LeastDistance(a, l[j])
 			if away == 0 {
 				return nil, api.ErrClash
 			}
@@ -49,37 +49,12 @@ func checkGaps(l [][]api.Rect, below int) api.Fault {
 	return api.OK
 }
 
-// regionDistance returns the least distance of a square of a and one of b; neither is empty.
-func regionDistance(a, b []api.Rect) int {
-	least := rectDistance(a[0], b[0])
-	for _, x := range a {
-		for _, y := range b {
-			least = min(least, rectDistance(x, y))
-		}
-	}
-	return least
-}
-
-// rectDistance returns the least distance of two squares of two rectangles: 0 if they have one in common, 1 if they touch.
-func rectDistance(a, b api.Rect) int {
-	c := common(a, b)
-	return max(0, c.X0-c.X1+1, c.Y0-c.Y1+1)
-}
-
 // firstNear returns the least square (by Y, then X) of a that is at most so far from b; there must be one.
 func firstNear(a, b []api.Rect, away int) api.Point {
-	var first api.Point
-	found := false
-	for _, x := range a {
-		for _, y := range b {
-			near := widened(y, away)
-			if !overlap(x, near) {
-				continue
-			}
-			if p := corner(common(x, near)); !found || comparePoints(p, first) < 0 {
-				first, found = p, true
-			}
-		}
+	near := make([]api.Rect, 0, len(b))
+	for _, y := range b {
+		near = append(near, Widened(y, away))
 	}
+	first, _ := FirstIn(a, near)
 	return first
 }

@@ -10,10 +10,10 @@ func Grow(r []api.Rect, n int) ([]api.Rect, api.Fault) {
 	if len(r) == 0 {
 		return nil, api.OK
 	}
-	if reach := widened(around(r), n); checkRect(reach) != api.OK {
+	if reach := Widened(around(r), n); checkRect(reach) != api.OK {
 		return nil, api.ErrRange
 	}
-	return combine(grown(r, n), nil, inFirst)
+	return combine(Spread(r, n, n), nil, inFirst)
 }
 
 // Shrink returns the squares around which all squares that are at most n away are in the region.
@@ -21,10 +21,7 @@ func Shrink(r []api.Rect, n int) ([]api.Rect, api.Fault) {
 	if f := checkGrow(r, n); f != api.OK {
 		return nil, f
 	}
-	if len(r) == 0 {
-		return nil, api.OK
-	}
-	return combine(r, grown(outside(r), n), inFirstAlone)
+	return combine(r, Spread(Outside(r), n, n), inFirstAlone)
 }
 
 // Opened is Shrink, then Grow.
@@ -53,48 +50,4 @@ func checkGrow(r []api.Rect, n int) api.Fault {
 		return api.ErrRange
 	}
 	return api.OK
-}
-
-// widened returns all squares that are at most n away from a rectangle.
-func widened(r api.Rect, n int) api.Rect {
-	return api.Rect{X0: r.X0 - n, Y0: r.Y0 - n, X1: r.X1 + n, Y1: r.Y1 + n}
-}
-
-// grown returns rectangles that cover what is at most n away from a region. They are joined along X and Y before they grow along Y, since sweep takes long where many rectangles lie over one another.
-func grown(r []api.Rect, n int) []api.Rect {
-	wide := make([]api.Rect, 0, len(r))
-	for _, x := range r {
-		wide = append(wide, api.Rect{X0: x.X0 - n, Y0: x.Y0, X1: x.X1 + n, Y1: x.Y1})
-	}
-	out := stacked(covered(wide))
-	for i := range out {
-		out[i].Y0 -= n
-		out[i].Y1 += n
-	}
-	return out
-}
-
-// stacked joins the rectangles of a region that lie one over the other with the same left and right sides, though bands cut them.
-func stacked(r []api.Rect) []api.Rect {
-	type roof struct{ x0, x1, y int }
-	below := map[roof]int{}
-	var out []api.Rect
-	for _, x := range r {
-		k, ok := below[roof{x.X0, x.X1, x.Y0}]
-		if ok {
-			out[k].Y1 = x.Y1
-		} else {
-			k = len(out)
-			out = append(out, x)
-		}
-		below[roof{x.X0, x.X1, x.Y1}] = k
-	}
-	return out
-}
-
-// outside returns what is not in a region, up to one square beyond its bounds: of the squares beyond, those are the nearest ones.
-func outside(r []api.Rect) []api.Rect {
-	frame := []api.Rect{widened(around(r), 1)}
-	out, _ := sweep(frame, r, noLimit, inFirstAlone)
-	return out
 }

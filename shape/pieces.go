@@ -17,8 +17,8 @@ func Holes(r []api.Rect) ([][]api.Rect, api.Fault) {
 	}
 	all := around(r)
 	var out [][]api.Rect
-	for _, p := range parts(outside(r)) {
-		if around(p) == common(around(p), all) {
+	for _, p := range parts(Outside(r)) {
+		if around(p) == Common(around(p), all) {
 			out = append(out, p)
 		}
 	}

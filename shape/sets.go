@@ -21,12 +21,16 @@ func Union(a, b []api.Rect) ([]api.Rect, api.Fault) {
 
 // Both returns what is in a and in b.
 func Both(a, b []api.Rect) ([]api.Rect, api.Fault) {
-	return combineRegions(a, b, func(inA, inB int) bool { return inA > 0 && inB > 0 })
+	return combineRegions(a, b, inEach)
 }
 
 // Minus returns what is in a, but not in b.
 func Minus(a, b []api.Rect) ([]api.Rect, api.Fault) {
 	return combineRegions(a, b, inFirstAlone)
+}
+
+func inEach(inA, inB int) bool {
+	return inA > 0 && inB > 0
 }
 
 func inFirstAlone(inA, inB int) bool {
@@ -61,7 +65,7 @@ func Has(r []api.Rect, p api.Point) (bool, api.Fault) {
 		return false, api.ErrRange
 	}
 	for _, x := range r {
-		if overlap(x, squareAt(p)) {
+		if Overlap(x, squareAt(p)) {
 			return true, api.OK
 		}
 	}
@@ -95,19 +99,6 @@ func squareAt(p api.Point) api.Rect {
 // corner is the least square of a rectangle.
 func corner(r api.Rect) api.Point {
 	return api.Point{X: r.X0, Y: r.Y0}
-}
-
-// common returns what two rectangles have in common; it has squares only if they overlap.
-func common(a, b api.Rect) api.Rect {
-	return api.Rect{
-		X0: max(a.X0, b.X0), Y0: max(a.Y0, b.Y0),
-		X1: min(a.X1, b.X1), Y1: min(a.Y1, b.Y1),
-	}
-}
-
-func overlap(a, b api.Rect) bool {
-	c := common(a, b)
-	return c.X0 < c.X1 && c.Y0 < c.Y1
 }
 
 // comparePoints orders by Y, then X.

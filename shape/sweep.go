@@ -32,12 +32,6 @@ func combine(a, b []api.Rect, keep keeper) ([]api.Rect, api.Fault) {
 	return out, api.OK
 }
 
-// covered returns the region of some rectangles, however many rectangles it has.
-func covered(l []api.Rect) []api.Rect {
-	out, _ := sweep(l, nil, noLimit, inFirst)
-	return out
-}
-
 func inFirst(inA, _ int) bool {
 	return inA > 0
 }

@@ -80,6 +80,19 @@ func Signed(s string) (int, bool) {
 	return n, ok
 }
 
+// Numbers reads words that are all such numbers.
+func Numbers(words []string) ([]int, bool) {
+	var numbers []int
+	for _, word := range words {
+		n, ok := Signed(word)
+		if !ok {
+			return nil, false
+		}
+		numbers = append(numbers, n)
+	}
+	return numbers, true
+}
+
 // Lines gives what stands between the blanks of each line to a function, as long as this returns true. It returns the number (from 1 on) of the first line that is not read so, or does not end with the byte 10; 0 if there is none.
 func Lines(text string, read func(words []string) bool) int {
 	for number := 1; text != ""; number++ {

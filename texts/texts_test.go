@@ -106,6 +106,25 @@ func TestRandomNumbers(t *testing.T) {
 	}
 }
 
+// Words that are all numbers.
+func TestRowsOfNumbers(t *testing.T) {
+	for _, c := range []struct {
+		text string
+		want []int
+		ok   bool
+	}{
+		{"", nil, true}, {"7", []int{7}, true}, {"0 -1 999999999", []int{0, -1, 999999999}, true},
+		{"x", nil, false}, {"1 x", nil, false}, {"-0 1", nil, false}, {"1 01 2", nil, false},
+	} {
+		n, ok := Numbers(strings.Fields(c.text))
+		want(t, c.text, ok, c.ok)
+		want(t, c.text, n, c.want)
+	}
+	n, ok := Numbers([]string{"1", ""})
+	want(t, "an empty word", ok, false)
+	want(t, "an empty word", n, []int{})
+}
+
 func TestLines(t *testing.T) {
 	for _, c := range []struct {
 		text  string
